@@ -17,6 +17,10 @@ func corpus() []string {
 	find := "*(u64 *)(r10 -16) = 0; *(u64 *)(r10 -8) = 0; r7 = r1; r2 = r10; r2 += -16; r3 = 12; call 13; if r0 == 0 goto +5; r6 = *(u32 *)(r0 +4); r1 = r0; call 14; r0 = r6; exit; r0 = 0; exit"
 	return []string{
 		find,
+		"r1 = *(u8 *)(r1 +3); r1 &= 7; r2 = func +6; r3 = r10; r3 += -8; *(u64 *)(r10 -8) = 0; call 7; exit; r6 = r2; call 5; if r0 & 1 goto +1; *(u64 *)(r6 +0) = 5; if r0 > 9 goto +2; r0 = 0; exit; r0 &= 3; exit",
+		"r1 = 5; r2 = func +5; r3 = 0; call 7; r0 += 1; exit; r6 = r1; *(u64 *)(r10 -16) = 0; *(u64 *)(r10 -8) = 0; r1 = map 0; r2 = 8; call 9; if r0 == 0 goto +2; r1 = r0; call 11; r0 = r6; r0 s>>= 1; exit",
+		"r6 = *(u8 *)(r1 +9); r6 &= 3; r1 = map 0; r2 = 64; r3 = r10; r3 += -16; call 19; r1 = r10; r1 += -16; r2 = r6; r3 = 24; call 25; if r0 == 0 goto +5; r7 = r0; r7 += r6; r8 = r7; *(u64 *)(r8 +3) = 5; r0 = *(u16 *)(r7 +19); r1 = r10; r1 += -16; call 21; r0 = r6; exit",
+		"r6 = *(u8 *)(r1 +1); r6 &= 7; r6 += 3; *(u64 *)(r10 -16) = 1; *(u64 *)(r10 -8) = r10; r7 = map 2; r8 = r1; r2 = r10; r2 += -16; r1 = map 0; r3 = 8; call 8; if r0 s< 0 goto +3; r1 = r8; r1 += r6; r0 = *(u8 *)(r1 +40); exit",
 		"r6 = *(u32 *)(r1 +0); *(u32 *)(r10 -4) = 0; r2 = r10; r2 += -4; r1 = map 1; call 1; if r0 == 0 goto +4; if r6 > 7 goto +2; r0 += r6; goto +2; r0 = 0; exit; r0 = *(u8 *)(r0 +8); exit",
 		"r6 = *(u32 *)(r1 +0); *(u32 *)(r10 -4) = 0; r2 = r10; r2 += -4; r1 = map 2; call 1; if r0 == 0 goto +4; r6 &= 7; r0 += r6; r0 = *(u8 *)(r0 +0); exit; r0 = 0; exit",
 		"r1 = map 0; r2 = 40; call 9; if r0 == 0 goto +4; *(u8 *)(r0 +39) = 5; r1 = r0; call 10; goto +0; r0 = 0; exit",

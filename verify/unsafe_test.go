@@ -115,6 +115,8 @@ func unsafe() []string {
 		"r1 = r10; r1 += -520; r2 = 0; r3 = 5; call 26; r0 = 0; exit", "*(u64 *)(r10 -8) = r1; r0 = *(u32 *)(r10 -8); exit", "*(u64 *)(r10 -8) = r1; *(u8 *)(r10 -1) = 0; r0 = *(u64 *)(r10 -8); exit", "*(u64 *)(r10 -12) = r1; r0 = 0; exit", value + "*(u64 *)(r6 +0) = r10; r0 = 0; exit" + none,
 		// Sockets.
 		find + "*(u32 *)(r6 +0) = 1; r1 = r6; call 14; exit" + none, find + "r7 = *(u64 *)(r6 +0); r1 = r6; call 14; exit" + none, find + "r7 = *(u32 *)(r6 +12); r1 = r6; call 14; exit" + none, find + "r6 += 0; r1 = r6; call 14; exit" + none, find + "r1 = map 0; r2 = r6; r3 = 4; call 8; r1 = r6; call 14; exit" + none,
+		value + ofValue + "r1 = r10; r1 += -32; r2 = 0; r3 = 4; call 25; if r0 == 0 goto none; r0 += 2; r0 = *(u8 *)(r0 +18); exit" + none, "r2 = r1; r2 += 5; r1 = map 0; r3 = 60; call 8; exit", "r6 = *(u16 *)(r1 +0); r1 = r6; r2 = func f; r3 = r10; *(u64 *)(r10 -8) = 0; call 7; r0 = *(u64 *)(r10 -8); r6 = r10; r6 -= r0; r0 = *(u8 *)(r6 -8); exit; f: r3 = *(u64 *)(r2 -8); if r1 & 1 goto end; r3 += 1; end: *(u64 *)(r2 -8) = r3; r0 = 0; exit",
+		"r1 = 9; r2 = func f; r3 = r10; call 7; r6 = r10; r0 *= 8; r6 -= r0; r0 = *(u64 *)(r6 +0); exit; f: r6 = r2; r7 = r1; call 5; if r0 & 1 goto end; goto +0; end: r0 &= 1; exit",
 		// Callbacks: what they get, what they answer, how deep they are.
 		"r1 = 1; r2 = func f; r3 = 0; call 7; r0 = 0; exit; f: exit", "r1 = 1; r2 = func f; r3 = 0; call 7; r0 = 0; exit; f: r0 = r10; exit", "r1 = 1; r2 = func f; r3 = 0; call 7; r0 = 0; exit; f: r0 = *(u8 *)(r2 +0); exit", "r1 = 1; r2 = func f; r3 = 0; call 7; r0 = 0; exit; f: r0 = r3; exit",
 		"*(u64 *)(r10 -8) = 0; r1 = 5; r2 = func f; r3 = r10; call 7; r0 = 0; exit; f: r3 = *(u64 *)(r2 -8); r3 += 1; r3 *= 1; *(u64 *)(r2 -8) = r2; r0 = 0; exit",
@@ -143,7 +145,7 @@ func TestUnsafe(t *testing.T) {
 		if v.Why == api.OK {
 			t.Errorf("P17.2: taken: %s", s)
 		}
-		if !traps(t, o) && !strings.Contains(s, "300") {
+		if !traps(t, o) {
 			t.Errorf("doesn't trap: %s: %+v", s, v)
 		}
 	}
