@@ -2,6 +2,7 @@ package btf
 
 import (
 	"barbican/api"
+	"barbican/take"
 )
 
 // Encode: see P4.4.
@@ -44,50 +45,25 @@ func bit(yes bool) byte {
 
 // Decode: see P4.4.
 func Decode(b []byte) ([]api.Type, int, api.Errno) {
-	t := &taker{rest: b}
+	t := taker{take.Of(b)}
 	l := t.types()
-	if t.bad {
+	if t.Bad() {
 		return nil, 0, api.ErrBtfForm
 	}
 	if _, e := Check(l); e != api.OK {
 		return nil, 0, api.ErrBtfForm
 	}
-	return l, len(b) - len(t.rest), api.OK
+	return l, len(b) - t.Left(), api.OK
 }
 
-// taker: takes what stands next in some bytes; once there wasn't enough, or it couldn't be, it is bad, and answers zeros.
-type taker struct {
-	rest []byte
-	bad  bool
-}
-
-func (t *taker) bytes(n int) []byte {
-	if t.bad || n > len(t.rest) {
-		t.bad = true
-		return make([]byte, n)
-	}
-	b := t.rest[:n]
-	t.rest = t.rest[n:]
-	return b
-}
-
-func (t *taker) byte() int { return int(t.bytes(1)[0]) }
-
-func (t *taker) number() int {
-	b := t.bytes(4)
-	return int(b[0]) | int(b[1])<<8 | int(b[2])<<16 | int(b[3])<<24
-}
-
-func (t *taker) name() string { return string(t.bytes(t.byte())) }
+// taker: takes types from bytes.
+type taker struct{ take.Bytes }
 
 // atMost: a number; one above most is a fault.
 func (t *taker) atMost(most int) int {
-	n := t.number()
-	if n > most {
-		t.bad = true
-		return 0
-	}
-	return n
+	n := t.Number()
+	t.Demand(n <= most)
+	return min(n, most)
 }
 
 func (t *taker) types() []api.Type {
@@ -99,14 +75,17 @@ func (t *taker) types() []api.Type {
 }
 
 func (t *taker) oneType() api.Type {
-	x := api.Type{Kind: t.byte(), Name: t.name(), Size: t.number()}
-	signed := t.byte()
-	t.bad = t.bad || signed > 1
-	x.Signed = signed == 1
-	x.To = t.number()
-	x.Count = t.number()
+	x := api.Type{Kind: t.Byte()}
+	x.Name = t.Text()
+	x.Size = t.Number()
+	x.Signed = t.Flag()
+	x.To = t.Number()
+	x.Count = t.Number()
 	for range t.atMost(maxMembers) {
-		x.Members = append(x.Members, api.Member{Name: t.name(), Type: t.number(), Bits: t.number()})
+		m := api.Member{Name: t.Text()}
+		m.Type = t.Number()
+		m.Bits = t.Number()
+		x.Members = append(x.Members, m)
 	}
 	return x
 }

@@ -2,12 +2,7 @@ package gen
 
 import (
 	"barbican/api"
-)
-
-const (
-	wideOp     = 0x18
-	byRegister = 0x08
-	callOp     = api.Jmp | api.Call<<4
+	"barbican/op"
 )
 
 // Sizes of loads and stores, as they stand in an Op; its class comes to it.
@@ -16,12 +11,6 @@ const (
 	half = 0x68
 	one  = 0x70
 	long = 0x78
-)
-
-// What the Src of a wide load tells.
-const (
-	loadsMap      = 1
-	loadsFunction = 4
 )
 
 // Registers between pieces: the context, a number that all pieces add to; two more are a piece's own.
@@ -38,13 +27,13 @@ func set(d uint8, n int32) api.Insn {
 }
 
 func move(d, s uint8) api.Insn {
-	return api.Insn{Op: api.Alu64 | byRegister | api.Mov<<4, Dst: d, Src: s}
+	return api.Insn{Op: api.Alu64 | op.ByRegister | api.Mov<<4, Dst: d, Src: s}
 }
 
 func plus(d uint8, n int32) api.Insn { return api.Insn{Op: api.Alu64 | api.Add<<4, Dst: d, Imm: n} }
 
 func both(code int, d, s uint8) api.Insn {
-	return api.Insn{Op: api.Alu64 | byRegister | uint8(code)<<4, Dst: d, Src: s}
+	return api.Insn{Op: api.Alu64 | op.ByRegister | uint8(code)<<4, Dst: d, Src: s}
 }
 
 func load(size, d, s uint8, off int16) api.Insn {
@@ -59,12 +48,12 @@ func put(size, d uint8, off int16, n int32) api.Insn {
 	return api.Insn{Op: size | api.St, Dst: d, Off: off, Imm: n}
 }
 
-func call(n int) api.Insn { return api.Insn{Op: callOp, Imm: int32(n)} }
+func call(n int) api.Insn { return api.Insn{Op: op.Call, Imm: int32(n)} }
 
 func exit() api.Insn { return api.Insn{Op: api.Jmp | api.Exit<<4} }
 
 func wide(d, of uint8, n int32) []api.Insn {
-	return []api.Insn{{Op: wideOp, Dst: d, Src: of, Imm: n}, {}}
+	return []api.Insn{{Op: op.Wide, Dst: d, Src: of, Imm: n}, {}}
 }
 
 // part: a subprogram that is still to come: where it is named, and its slots.
@@ -98,18 +87,18 @@ func (m *maker) ifFound(body func()) {
 	m.over(api.Insn{Op: api.Jmp | api.Jeq<<4}, body)
 }
 
-func (m *maker) loadMap(d uint8, i int) { m.add(wide(d, loadsMap, int32(i))...) }
+func (m *maker) loadMap(d uint8, i int) { m.add(wide(d, op.LoadsMap, int32(i))...) }
 
 // function: d becomes a function of these slots.
 func (m *maker) function(d uint8, l ...api.Insn) {
 	m.parts = append(m.parts, part{len(m.l), l})
-	m.add(wide(d, loadsFunction, 0)...)
+	m.add(wide(d, op.LoadsFunction, 0)...)
 }
 
 // sub: a call of a subprogram of these slots.
 func (m *maker) sub(l ...api.Insn) {
 	m.parts = append(m.parts, part{len(m.l), l})
-	m.add(api.Insn{Op: callOp, Src: 1})
+	m.add(api.Insn{Op: op.Call, Src: 1})
 }
 
 // at: r becomes a pointer to the stack.

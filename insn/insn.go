@@ -3,30 +3,13 @@ package insn
 
 import (
 	"barbican/api"
+	"barbican/op"
 )
 
 const (
 	slotSize   = 8
-	wideOp     = 0x18
-	jumpOp     = api.Jmp | api.Ja<<4
-	callOp     = api.Jmp | api.Call<<4
-	exitOp     = api.Jmp | api.Exit<<4
-	byRegister = 0x08 // the second operand is a register
-	lastReg    = 10   // its stack pointer: read, never written
+	lastReg    = 10 // its stack pointer: read, never written
 	lastHelper = 28
-)
-
-// What the Src of a wide load tells.
-const (
-	loadsNumber   = 0
-	loadsMap      = 1
-	loadsFunction = 4
-)
-
-// What the Src of a call tells.
-const (
-	callsHelper = 0
-	callsSub    = 1
 )
 
 // Encode: see P1.1.
@@ -77,7 +60,7 @@ func Subs(l []api.Insn) ([]api.Part, int, api.Errno) {
 	if len(l) == 0 || len(l) > api.MaxInsns {
 		return nil, 0, api.ErrInsnMany
 	}
-	for at := 0; at < len(l); at += width(l[at]) {
+	for at := 0; at < len(l); at += op.Width(l[at]) {
 		if e := checkSlot(l, at); e != api.OK {
 			return nil, at, e
 		}
@@ -100,7 +83,7 @@ func Wide(l []api.Insn, at int) (uint64, bool) {
 		return 0, false
 	}
 	x := l[at]
-	if x.Op != wideOp || x.Src != loadsNumber {
+	if x.Op != op.Wide || x.Src != op.LoadsNumber {
 		return 0, false
 	}
 	return uint64(uint32(x.Imm)) | uint64(uint32(l[at+1].Imm))<<32, true
@@ -116,7 +99,7 @@ func Target(l []api.Insn, at int) (int, bool) {
 	switch {
 	case names(x):
 		to += int(x.Imm)
-	case jumps(x):
+	case op.Jumps(x):
 		to += int(x.Off)
 	default:
 		return 0, false
@@ -127,45 +110,28 @@ func Target(l []api.Insn, at int) (int, bool) {
 	return to, true
 }
 
-// width: how many slots the operation that begins with x takes.
-func width(x api.Insn) int {
-	if x.Op == wideOp {
-		return 2
-	}
-	return 1
-}
-
-// isSecond: whether the slot at is a second slot. In a row of slots with the wide load's Op first and second ones take turns, so the row in front of at decides.
-func isSecond(l []api.Insn, at int) bool {
-	from := at
-	for from > 0 && l[from-1].Op == wideOp {
-		from--
-	}
-	return (at-from)%2 == 1
-}
-
 // operation: whether a known operation begins at at.
 func operation(l []api.Insn, at int) bool {
-	return at >= 0 && at < len(l) && known(l[at]) && !isSecond(l, at)
+	return at >= 0 && at < len(l) && known(l[at]) && !op.IsSecond(l, at)
 }
 
 // known: see P1.2; the second slot aside.
 func known(x api.Insn) bool {
 	switch x.Op {
-	case wideOp:
-		return x.Off == 0 && (x.Src == loadsNumber || x.Src == loadsMap || x.Src == loadsFunction)
+	case op.Wide:
+		return x.Off == 0 && (x.Src == op.LoadsNumber || x.Src == op.LoadsMap || x.Src == op.LoadsFunction)
 	case 0x62, 0x6A, 0x72, 0x7A:
 		return x.Src == 0
 	case 0x61, 0x69, 0x71, 0x79:
 		fallthrough
 	case 0x63, 0x6B, 0x73, 0x7B:
 		return x.Imm == 0
-	case jumpOp:
-		return x == api.Insn{Op: jumpOp, Off: x.Off}
-	case callOp:
-		return x.Dst == 0 && x.Off == 0 && (x.Src == callsHelper || x.Src == callsSub)
-	case exitOp:
-		return x == api.Insn{Op: exitOp}
+	case op.Jump:
+		return x == api.Insn{Op: op.Jump, Off: x.Off}
+	case op.Call:
+		return x.Dst == 0 && x.Off == 0 && (x.Src == op.CallsHelper || x.Src == op.CallsSub)
+	case op.Exit:
+		return x == api.Insn{Op: op.Exit}
 	}
 	switch x.Op & 7 {
 	case api.Alu, api.Alu64:
@@ -179,7 +145,7 @@ func known(x api.Insn) bool {
 }
 
 func knownAlu(x api.Insn) bool {
-	reg := x.Op&byRegister != 0
+	reg := x.Op&op.ByRegister != 0
 	switch x.Op >> 4 {
 	case api.Neg:
 		return !reg && x.Src == 0 && x.Off == 0 && x.Imm == 0
@@ -198,7 +164,7 @@ func knownAlu(x api.Insn) bool {
 
 // plainOperand: whether the operand that x hasn't is 0.
 func plainOperand(x api.Insn) bool {
-	if x.Op&byRegister != 0 {
+	if x.Op&op.ByRegister != 0 {
 		return x.Imm == 0
 	}
 	return x.Src == 0
@@ -220,16 +186,13 @@ func compares(x api.Insn) bool {
 	return false
 }
 
-// jumps: whether x, a known operation, goes elsewhere within its subprogram.
-func jumps(x api.Insn) bool { return x.Op == jumpOp || compares(x) }
-
 // names: whether x, a known operation, names a subprogram's first slot.
 func names(x api.Insn) bool {
 	switch x.Op {
-	case wideOp:
-		return x.Src == loadsFunction
-	case callOp:
-		return x.Src == callsSub
+	case op.Wide:
+		return x.Src == op.LoadsFunction
+	case op.Call:
+		return x.Src == op.CallsSub
 	}
 	return false
 }
@@ -253,9 +216,9 @@ func checkSlot(l []api.Insn, at int) api.Errno {
 		return api.ErrInsnOp
 	case x.Dst > lastReg || x.Src > lastReg || x.Dst == lastReg && writes(x):
 		return api.ErrInsnReg
-	case x.Op == wideOp && !rightSecond(l, at):
+	case x.Op == op.Wide && !op.RightSecond(l, at):
 		return api.ErrInsnWide
-	case x.Op == callOp && x.Src == callsHelper && (x.Imm < 1 || x.Imm > lastHelper):
+	case x.Op == op.Call && x.Src == op.CallsHelper && (x.Imm < 1 || x.Imm > lastHelper):
 		return api.ErrInsnCall
 	case names(x) && !callable(l, at+1+int(x.Imm)):
 		return api.ErrInsnCall
@@ -263,28 +226,16 @@ func checkSlot(l []api.Insn, at int) api.Errno {
 	return api.OK
 }
 
-// rightSecond: whether the wide load at at has a second slot as P1.2 has it.
-func rightSecond(l []api.Insn, at int) bool {
-	if at+1 >= len(l) {
-		return false
-	}
-	want := api.Insn{}
-	if l[at].Src == loadsNumber {
-		want.Imm = l[at+1].Imm
-	}
-	return l[at+1] == want
-}
-
 // callable: whether a subprogram other than the first one may begin at to.
 func callable(l []api.Insn, to int) bool {
-	return to > 0 && to < len(l) && !isSecond(l, to)
+	return to > 0 && to < len(l) && !op.IsSecond(l, to)
 }
 
 // split: all subprograms of l, each of whose operations is right by itself.
 func split(l []api.Insn) []api.Part {
 	var begins [api.MaxInsns]bool
 	begins[0] = true
-	for at := 0; at < len(l); at += width(l[at]) {
+	for at := 0; at < len(l); at += op.Width(l[at]) {
 		if names(l[at]) {
 			begins[at+1+int(l[at].Imm)] = true
 		}
@@ -302,20 +253,20 @@ func split(l []api.Insn) []api.Part {
 // ends: the first slot of p's last operation, and whether nothing goes on beyond it.
 func ends(l []api.Insn, p api.Part) (int, bool) {
 	last := p.To - 1
-	if isSecond(l, last) {
+	if op.IsSecond(l, last) {
 		last--
 	}
-	return last, l[last].Op == exitOp || l[last].Op == jumpOp
+	return last, l[last].Op == op.Exit || l[last].Op == op.Jump
 }
 
 // jumpsStay: the first slot of p that jumps out of it, or to a second slot; true if none does.
 func jumpsStay(l []api.Insn, p api.Part) (int, bool) {
-	for at := p.From; at < p.To; at += width(l[at]) {
-		if !jumps(l[at]) {
+	for at := p.From; at < p.To; at += op.Width(l[at]) {
+		if !op.Jumps(l[at]) {
 			continue
 		}
 		to := at + 1 + int(l[at].Off)
-		if to < p.From || to >= p.To || isSecond(l, to) {
+		if to < p.From || to >= p.To || op.IsSecond(l, to) {
 			return at, false
 		}
 	}

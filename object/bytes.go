@@ -4,6 +4,7 @@ import (
 	"barbican/api"
 	"barbican/btf"
 	"barbican/insn"
+	"barbican/take"
 )
 
 const (
@@ -52,12 +53,12 @@ func Decode(b []byte) (api.Object, api.Errno) {
 	if len(b) > api.MaxObject {
 		return api.Object{}, api.ErrObjectLong
 	}
-	t := &taker{rest: b}
+	t := &taker{take.Of(b)}
 	var o api.Object
 	for _, s := range sections(t) {
-		s.take(&o)
+		s.put(&o)
 	}
-	if t.bad || len(t.rest) > 0 {
+	if t.Bad() || t.Left() > 0 {
 		return api.Object{}, api.ErrObjectForm
 	}
 	if _, e := Check(o); e != api.OK {
@@ -68,7 +69,7 @@ func Decode(b []byte) (api.Object, api.Errno) {
 
 // section: a part of an object's bytes: how it is put into the object.
 type section struct {
-	take func(o *api.Object)
+	put func(o *api.Object)
 }
 
 // sections: all of them, in the order in which they stand.
@@ -76,68 +77,34 @@ func sections(t *taker) [4]section {
 	return [...]section{{t.magic}, {t.types}, {t.maps}, {t.progs}}
 }
 
-// taker: takes what stands next in some bytes; once there wasn't enough, or it couldn't be, it is bad, and answers zeros.
-type taker struct {
-	rest []byte
-	bad  bool
-}
+// taker: takes sections from bytes.
+type taker struct{ take.Bytes }
 
-func (t *taker) bytes(n int) []byte {
-	if t.bad || n > len(t.rest) {
-		t.bad = true
-		return make([]byte, n)
-	}
-	b := t.rest[:n]
-	t.rest = t.rest[n:]
-	return b
-}
-
-func (t *taker) byte() int { return int(t.bytes(1)[0]) }
-
-func (t *taker) short() int {
-	b := t.bytes(2)
-	return int(b[0]) | int(b[1])<<8
-}
-
-// flag: a byte that is 0 or 1.
-func (t *taker) flag() bool {
-	n := t.byte()
-	t.bad = t.bad || n > 1
-	return n == 1
-}
-
-func (t *taker) magic(*api.Object) {
-	if string(t.bytes(len(magic))) != magic {
-		t.bad = true
-	}
-}
+func (t *taker) magic(*api.Object) { t.Demand(string(t.Next(len(magic))) == magic) }
 
 func (t *taker) types(o *api.Object) {
-	l, n, e := btf.Decode(t.rest)
-	if t.bad || e != api.OK {
-		t.bad = true
-		return
-	}
+	l, n, e := btf.Decode(t.Rest())
+	t.Demand(e == api.OK)
 	o.Types = l
-	t.rest = t.rest[n:]
+	t.Next(n)
 }
 
 func (t *taker) maps(o *api.Object) {
-	for range t.byte() {
-		m := api.MapDef{Kind: t.byte(), Key: t.byte(), Value: t.short(), Entries: t.short()}
-		m.Timer = t.flag()
-		m.Type = t.short()
+	for range t.Byte() {
+		m := api.MapDef{Kind: t.Byte()}
+		m.Key = t.Byte()
+		m.Value = t.Short()
+		m.Entries = t.Short()
+		m.Timer = t.Flag()
+		m.Type = t.Short()
 		o.Maps = append(o.Maps, m)
 	}
 }
 
 func (t *taker) progs(o *api.Object) {
-	for range t.byte() {
-		name := string(t.bytes(t.byte()))
-		l, _ := insn.Decode(t.bytes(slotSize * t.short()))
-		if t.bad {
-			return
-		}
-		o.Progs = append(o.Progs, api.Prog{Name: name, Insns: l})
+	for range t.Byte() {
+		p := api.Prog{Name: t.Text()}
+		p.Insns, _ = insn.Decode(t.Next(slotSize * t.Short()))
+		o.Progs = append(o.Progs, p)
 	}
 }

@@ -7,6 +7,7 @@ import (
 	"strings"
 
 	"barbican/api"
+	"barbican/op"
 )
 
 // Parse: see P3.2.
@@ -181,7 +182,7 @@ func guessPlain(verb, arg string) api.Insn {
 	}
 	x := api.Insn{Op: api.Jmp | api.Call<<4, Imm: short(arg)}
 	if strings.HasPrefix(arg, "+") || strings.HasPrefix(arg, "-") {
-		x.Src = callsSub
+		x.Src = op.CallsSub
 	}
 	return x
 }
@@ -189,7 +190,7 @@ func guessPlain(verb, arg string) api.Insn {
 // second: x with an operand of either kind.
 func second(x api.Insn, w string) api.Insn {
 	if isReg(w) {
-		x.Op |= byRegister
+		x.Op |= op.ByRegister
 		x.Src, _ = regOf(w)
 		return x
 	}
@@ -214,7 +215,7 @@ func guessAlu(d, sign, s string) api.Insn {
 // guessFour: wide loads, and what turns bytes.
 func guessFour(d, third, fourth string) []api.Insn {
 	n, _ := regOf(d)
-	x := api.Insn{Op: wideOp, Dst: n}
+	x := api.Insn{Op: op.Wide, Dst: n}
 	switch {
 	case fourth == "ll":
 		v, err := strconv.ParseUint(third, 10, 64)
@@ -224,16 +225,16 @@ func guessFour(d, third, fourth string) []api.Insn {
 		x.Imm = int32(uint32(v))
 		return []api.Insn{x, {Imm: int32(uint32(v >> 32))}}
 	case third == "map":
-		x.Src, x.Imm = loadsMap, short(fourth)
+		x.Src, x.Imm = op.LoadsMap, short(fourth)
 		return []api.Insn{x, {}}
 	case third == "func":
-		x.Src, x.Imm = loadsFunction, short(fourth)
+		x.Src, x.Imm = op.LoadsFunction, short(fourth)
 		return []api.Insn{x, {}}
 	}
 	x.Op = api.Alu | api.End<<4
 	switch {
 	case strings.HasPrefix(third, "be"):
-		x.Op |= byRegister
+		x.Op |= op.ByRegister
 	case strings.HasPrefix(third, "swap"):
 		x.Op = api.Alu64 | api.End<<4
 	}

@@ -2,6 +2,7 @@ package verify
 
 import (
 	"barbican/api"
+	"barbican/op"
 	"barbican/scalar"
 )
 
@@ -46,7 +47,7 @@ func (w *walker) turn(x api.Insn, d value) value {
 	if !ok {
 		w.refuse(api.ErrVerifyPtr)
 	}
-	return number{scalar.Swap(int(x.Imm), x.Op&byRegister != 0, x.Op&7 == api.Alu64, n.n)}
+	return number{scalar.Swap(int(x.Imm), x.Op&op.ByRegister != 0, x.Op&7 == api.Alu64, n.n)}
 }
 
 // moved: the pointer p, to which n is added, or from which it is taken.

@@ -5,24 +5,12 @@ import (
 	"barbican/flow"
 	"barbican/insn"
 	"barbican/live"
+	"barbican/op"
 	"barbican/proto"
 	"barbican/scalar"
 )
 
-const (
-	byRegister = 0x08
-	callOp     = api.Jmp | api.Call<<4
-	exitOp     = api.Jmp | api.Exit<<4
-	jumpOp     = api.Jmp | api.Ja<<4
-	kept       = 16 // how many states are remembered at a slot
-)
-
-// What the Src of a wide load, and of a call, tells.
-const (
-	loadsMap      = 1
-	loadsFunction = 4
-	callsSub      = 1
-)
+const kept = 16 // how many states are remembered at a slot
 
 // remembered: a state all of whose ways were gone, and the steps of the longest one.
 type remembered struct {
@@ -63,7 +51,7 @@ func joins(l []api.Insn) []bool {
 		is[b.From] = true
 	}
 	for at, x := range l {
-		if x.Op == callOp && (x.Src == callsSub || x.Imm == api.HLoop) {
+		if x.Op == op.Call && (x.Src == op.CallsSub || x.Imm == api.HLoop) {
 			is[at+1] = true
 		}
 	}
@@ -189,38 +177,25 @@ func (w *walker) step(s *state) []*state {
 	case api.Ld:
 		f.regs[x.Dst] = w.wideLoad(f.at)
 	case api.Ldx:
-		f.regs[x.Dst] = w.load(s, f.regs[x.Src], by, sizeOf(x))
+		f.regs[x.Dst] = w.load(s, f.regs[x.Src], by, op.Size(x))
 	case api.St:
-		w.store(s, d, by, sizeOf(x), immediate(x))
+		w.store(s, d, by, op.Size(x), immediate(x))
 	case api.Stx:
-		w.store(s, d, by, sizeOf(x), f.regs[x.Src])
+		w.store(s, d, by, op.Size(x), f.regs[x.Src])
 	case api.Alu, api.Alu64:
 		f.regs[x.Dst] = w.arithmetic(x, d, operand(f, x))
 	default:
 		return w.jump(s, x)
 	}
-	f.at += width(x)
+	f.at += op.Width(x)
 	return []*state{s}
-}
-
-// sizeOf: the bytes of a load or a store.
-func sizeOf(x api.Insn) int {
-	switch x.Op & 0x18 {
-	case 0x00:
-		return 4
-	case 0x08:
-		return 2
-	case 0x10:
-		return 1
-	}
-	return 8
 }
 
 func immediate(x api.Insn) value { return constant(uint64(int64(x.Imm))) }
 
 // operand: the second one of an operation or a comparison.
 func operand(f *frame, x api.Insn) value {
-	if x.Op&byRegister != 0 {
+	if x.Op&op.ByRegister != 0 {
 		return f.regs[x.Src]
 	}
 	return immediate(x)
@@ -229,9 +204,9 @@ func operand(f *frame, x api.Insn) value {
 func (w *walker) wideLoad(at int) value {
 	x := w.l[at]
 	switch x.Src {
-	case loadsMap:
+	case op.LoadsMap:
 		return mapPtr{int(x.Imm)}
-	case loadsFunction:
+	case op.LoadsFunction:
 		return funcPtr{at + 1 + int(x.Imm)}
 	}
 	n, _ := insn.Wide(w.l, at)
@@ -242,14 +217,14 @@ func (w *walker) wideLoad(at int) value {
 func (w *walker) jump(s *state, x api.Insn) []*state {
 	f := s.top()
 	switch {
-	case x.Op == jumpOp:
+	case x.Op == op.Jump:
 		f.at += 1 + int(x.Off)
 		return []*state{s}
-	case x.Op == exitOp:
+	case x.Op == op.Exit:
 		return w.exit(s)
-	case x.Op == callOp && x.Src == callsSub:
+	case x.Op == op.Call && x.Src == op.CallsSub:
 		return []*state{w.enter(s, f.at+1+int(x.Imm), f.regs[1:6])}
-	case x.Op == callOp:
+	case x.Op == op.Call:
 		return w.help(s, int(x.Imm))
 	}
 	return w.branch(s, x)
@@ -337,12 +312,12 @@ func (w *walker) branch(s *state, x api.Insn) []*state {
 // comparable0: whether x compares a pointer with 0, as it may be: the second operand is a number.
 func comparable0(x api.Insn, withNumber bool) bool {
 	code := x.Op >> 4
-	return withNumber && x.Op&7 == api.Jmp && x.Op&byRegister == 0 && x.Imm == 0 && (code == api.Jeq || code == api.Jne)
+	return withNumber && x.Op&7 == api.Jmp && x.Op&op.ByRegister == 0 && x.Imm == 0 && (code == api.Jeq || code == api.Jne)
 }
 
 // narrow: what a comparison tells of the registers that it looked at.
 func narrow(f *frame, x api.Insn, left, right api.Scalar) {
-	if x.Op&byRegister == 0 {
+	if x.Op&op.ByRegister == 0 {
 		f.regs[x.Dst] = number{left}
 		return
 	}

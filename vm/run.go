@@ -4,6 +4,7 @@ import (
 	"slices"
 
 	"barbican/api"
+	"barbican/op"
 	"barbican/sock"
 )
 
@@ -171,7 +172,7 @@ func (r *run) until(depth int) api.Val {
 			f.regs[x.Dst] = arithmetic(x, f.regs[x.Dst], operand(f, x))
 			f.at++
 		default:
-			if x.Op != exitOp {
+			if x.Op != op.Exit {
 				r.jump(f, p, x)
 			} else if len(r.frames) == depth {
 				return f.regs[0]

@@ -3,27 +3,14 @@ package vm
 import (
 	"barbican/alu"
 	"barbican/api"
-)
-
-const (
-	byRegister = 0x08
-	callOp     = api.Jmp | api.Call<<4
-	exitOp     = api.Jmp | api.Exit<<4
-	jumpOp     = api.Jmp | api.Ja<<4
-)
-
-// What the Src of a wide load, and of a call, tells.
-const (
-	loadsMap      = 1
-	loadsFunction = 4
-	callsSub      = 1
+	"barbican/op"
 )
 
 func immediate(x api.Insn) api.Val { return number(alu.Sign(x.Imm)) }
 
 // operand: the second one of an operation or a comparison.
 func operand(f *frame, x api.Insn) api.Val {
-	if x.Op&byRegister != 0 {
+	if x.Op&op.ByRegister != 0 {
 		return f.regs[x.Src]
 	}
 	return immediate(x)
@@ -31,25 +18,12 @@ func operand(f *frame, x api.Insn) api.Val {
 
 func wideLoad(p *program, at int) api.Val {
 	switch x := p.insns[at]; x.Src {
-	case loadsMap:
+	case op.LoadsMap:
 		return api.Val{Kind: api.VMap, Id: int(x.Imm)}
-	case loadsFunction:
+	case op.LoadsFunction:
 		return api.Val{Kind: api.VFunc, Id: p.target[at]}
 	}
 	return number(p.wide[at])
-}
-
-// sizeOf: the bytes of a load or a store.
-func sizeOf(x api.Insn) int {
-	switch x.Op & 0x18 {
-	case 0x00:
-		return 4
-	case 0x08:
-		return 2
-	case 0x10:
-		return 1
-	}
-	return 8
 }
 
 // moved: the pointer p, moved by n: see P14.5.
@@ -80,12 +54,12 @@ func (r *run) flat(p api.Val) api.Val {
 // load: see P14.7.
 func (r *run) load(p api.Val, x api.Insn) api.Val {
 	if p.Kind == api.VSock {
-		return r.field(p, int(x.Off), sizeOf(x))
+		return r.field(p, int(x.Off), op.Size(x))
 	}
 	if movable(p) {
 		p = moved(p, int64(x.Off))
 	}
-	v, trap := r.m.mem.Load(r.flat(p), sizeOf(x))
+	v, trap := r.m.mem.Load(r.flat(p), op.Size(x))
 	must(trap)
 	return v
 }
@@ -112,7 +86,7 @@ func (r *run) store(p api.Val, x api.Insn, v api.Val) {
 	if movable(p) {
 		p = moved(p, int64(x.Off))
 	}
-	must(r.m.mem.Store(r.flat(p), sizeOf(x), v))
+	must(r.m.mem.Store(r.flat(p), op.Size(x), v))
 }
 
 // arithmetic: what an operation of the classes Alu and Alu64 makes of d and s: see P14.5.
@@ -166,7 +140,7 @@ func turned(x api.Insn, d api.Val) api.Val {
 	if x.Op&7 == api.Alu64 {
 		n, _ = alu.Turn(int(x.Imm), d.Num)
 	} else {
-		n, _ = alu.Swap(int(x.Imm), x.Op&byRegister != 0, d.Num)
+		n, _ = alu.Swap(int(x.Imm), x.Op&op.ByRegister != 0, d.Num)
 	}
 	return number(n)
 }
@@ -174,11 +148,11 @@ func turned(x api.Insn, d api.Val) api.Val {
 // jump: jumps, comparisons, calls.
 func (r *run) jump(f *frame, p *program, x api.Insn) {
 	switch {
-	case x.Op == jumpOp:
+	case x.Op == op.Jump:
 		f.at = p.target[f.at]
-	case x.Op == callOp && x.Src == callsSub:
+	case x.Op == op.Call && x.Src == op.CallsSub:
 		r.enter(p.target[f.at], f.regs[1:6]...)
-	case x.Op == callOp:
+	case x.Op == op.Call:
 		r.help(f, int(x.Imm))
 	case compared(x, f.regs[x.Dst], operand(f, x)):
 		f.at = p.target[f.at]
@@ -196,7 +170,7 @@ func compared(x api.Insn, d, s api.Val) bool {
 	case d.Kind == api.VNum && s.Kind == api.VNum:
 		yes, _ := alu.Cmp(code, wide, d.Num, s.Num)
 		return yes
-	case wide && x.Op&byRegister == 0 && x.Imm == 0 && (code == api.Jeq || code == api.Jne):
+	case wide && x.Op&op.ByRegister == 0 && x.Imm == 0 && (code == api.Jeq || code == api.Jne):
 		return code == api.Jne
 	}
 	raise(api.TrapPtr)
